@@ -4,6 +4,8 @@ import (
 	"slices"
 	"testing"
 	"unsafe"
+
+	"loop.example/g00485/impl"
 )
 
 // guarded lays a list in a greater array, so that a write into the list, ahead of it or into the spare room behind it shows.
@@ -61,3 +63,62 @@ func within(part, s string) bool {
 	from := uintptr(unsafe.Pointer(unsafe.StringData(s)))
 	return p >= from && p < from+uintptr(len(s))
 }
+
+// guardedGram is a grammar whose lists all have spare room behind them, so that a write into any of them shows.
+type guardedGram struct {
+	gram  impl.Gram
+	parts [][][]int    // with the room behind them
+	alts  [][][]int    // of each part, with the room behind them
+	rows  [][]*guarded // of each part
+	want  impl.Gram
+}
+
+func guardGram(g impl.Gram) *guardedGram {
+	out := &guardedGram{want: copyOfGram(g)}
+	for _, alts := range g.Parts {
+		var room [][]int
+		var rows []*guarded
+		for _, row := range alts {
+			kept := guard("a row of a grammar", row)
+			rows = append(rows, kept)
+			room = append(room, kept.list)
+		}
+		room = append(room, []int{guardSpare}, []int{guardSpare})
+		out.rows = append(out.rows, rows)
+		out.alts = append(out.alts, room)
+		out.parts = append(out.parts, room[:len(alts)])
+	}
+	out.parts = append(out.parts, [][]int{{guardSpare}}, [][]int{{guardSpare}})
+	out.gram = impl.Gram{Parts: out.parts[:len(g.Parts)]}
+	return out
+}
+
+func copyOfGram(g impl.Gram) impl.Gram {
+	var out impl.Gram
+	for _, alts := range g.Parts {
+		var rows [][]int
+		for _, row := range alts {
+			rows = append(rows, slices.Clone(row))
+		}
+		out.Parts = append(out.Parts, rows)
+	}
+	return out
+}
+
+func (g *guardedGram) unchanged(t *testing.T, call string) {
+	t.Helper()
+	spare := []int{guardSpare}
+	same := sameGram(g.gram, g.want) && sameGram(impl.Gram{Parts: g.parts[len(g.want.Parts):]}, gramOf([][]int{spare}, [][]int{spare}))
+	for k, alts := range g.alts {
+		same = same && slices.EqualFunc(alts[len(g.want.Parts[k]):], [][]int{spare, spare}, slices.Equal[[]int])
+		for _, row := range g.rows[k] {
+			row.unchanged(t, call)
+		}
+	}
+	if !same {
+		t.Fatalf("%s wrote into a grammar: %v became %v", call, g.want, g.gram)
+	}
+}
+
+// lists are the arrays of numbers that lie behind the grammar.
+func (g *guardedGram) lists() []*guarded { return slices.Concat(g.rows...) }
