@@ -193,12 +193,16 @@ func derivesAs(t *testing.T, g impl.Gram, row, w []int) bool {
 	return got
 }
 
-func TestWhatBelongsToGrammarsThatAreRefused(t *testing.T) {
+// A refused grammar is one with another code than CkOk.
+type refused struct {
+	g    impl.Gram
+	code int
+}
+
+func refusedGrams(t *testing.T) []refused {
+	t.Helper()
 	one := altsOf([]int{0}, nil)
-	for _, x := range []struct {
-		g    impl.Gram
-		code int
-	}{
+	return []refused{
 		{impl.Gram{}, impl.CkBad},
 		{gramOf(nil), impl.CkBad},
 		{gramOf(one, nil), impl.CkBad},
@@ -220,7 +224,11 @@ func TestWhatBelongsToGrammarsThatAreRefused(t *testing.T) {
 		{gramFrom(t, "S = a | ; T = b T ;"), impl.CkDead},
 		{gramFrom(t, "S = a | ; T = b ;"), impl.CkFar},
 		{gramFrom(t, "S = a | ; T = S ;"), impl.CkFar},
-	} {
+	}
+}
+
+func TestWhatBelongsToGrammarsThatAreRefused(t *testing.T) {
+	for _, x := range refusedGrams(t) {
 		if code := impl.Check(x.g); code != x.code {
 			t.Errorf("Check(%v) = %d, want %d", x.g, code, x.code)
 		}
@@ -598,24 +606,34 @@ func TestWaysThatAreMoreThanNumbers(t *testing.T) {
 	}
 }
 
-func TestWhatBelongsByWayOfAllPartsAndAllLetters(t *testing.T) {
-	full := lettersOf("abcdefghij")
-	// Every second part has a letter, the others go on as they are.
-	single := ladder(func(k, next int) [][]int {
+// singleLadder has a letter in every second part, the others go on as they are.
+func singleLadder() impl.Gram {
+	return ladder(func(k, next int) [][]int {
 		if k%2 == 0 {
 			return altsOf([]int{k / 2, next})
 		}
 		return altsOf([]int{next})
 	}, altsOf(nil))
-	// The letters come behind what comes of all other parts.
-	turned := ladder(func(k, next int) [][]int {
+}
+
+// turnedLadder has the letters behind what comes of all other parts.
+func turnedLadder() impl.Gram {
+	return ladder(func(k, next int) [][]int {
 		if k%2 == 1 {
 			return altsOf([]int{next, 9 - k/2})
 		}
 		return altsOf([]int{next}, []int{20, next})
 	}, altsOf([]int{0}))
+}
+
+func skippingLadder() impl.Gram {
+	return ladder(func(k, next int) [][]int { return altsOf([]int{k % 10, next}, []int{next}) }, altsOf(nil))
+}
+
+func TestWhatBelongsByWayOfAllPartsAndAllLetters(t *testing.T) {
+	full := lettersOf("abcdefghij")
+	single, turned, skips := singleLadder(), turnedLadder(), skippingLadder()
 	ring := ladder(func(k, next int) [][]int { return altsOf([]int{next}, []int{next}) }, altsOf([]int{5, 100}, nil))
-	skips := ladder(func(k, next int) [][]int { return altsOf([]int{k % 10, next}, []int{next}) }, altsOf(nil))
 	tries := ladder(func(k, next int) [][]int {
 		return altsOf([]int{25}, []int{0, 1, 2, 3, 4, 5, 6, 25}, []int{next, 25}, []int{next})
 	}, altsOf([]int{0, 1, 2, 3, 4, 5, 6, 7}, []int{0, 1, 2, 3, 4, 5, 6}))
@@ -640,8 +658,9 @@ func TestWhatBelongsByWayOfAllPartsAndAllLetters(t *testing.T) {
 	}
 }
 
-// Parts that can become nothing may stand one behind the other; what stands behind them is asked for at the same place.
-func TestDerivesOfManyPartsThatCanBecomeNothing(t *testing.T) {
+// manyEmpty has parts that can become nothing one behind the other; what stands behind them is asked for at the same place.
+func manyEmpty(t *testing.T) impl.Gram {
+	t.Helper()
 	var g impl.Gram
 	g.Parts = append(g.Parts, altsOf([]int{101, 102, 103, 104, 105, 106, 107, 108}, nil))
 	for k := 1; k < 20; k++ {
@@ -657,6 +676,11 @@ func TestDerivesOfManyPartsThatCanBecomeNothing(t *testing.T) {
 	if impl.Check(g) != impl.CkOk {
 		t.Fatal("refused", impl.Check(g))
 	}
+	return g
+}
+
+func TestDerivesOfManyPartsThatCanBecomeNothing(t *testing.T) {
+	g := manyEmpty(t)
 	r := rand.New(rand.NewSource(71))
 	for range 3000 {
 		row := randomRow(r, 20, r.Intn(9))
@@ -758,23 +782,29 @@ func TestWhatBelongsToRandomGrammars(t *testing.T) {
 	}
 }
 
+// greatGram has as many parts and alternatives as there may be; shorten puts short rows in the place of some, so that it is productive.
+func greatGram(r *rand.Rand, shorten func(rows [][]int)) impl.Gram {
+	var g impl.Gram
+	for k := range 20 {
+		var rows [][]int
+		for range 8 {
+			row := checkedRow(r, k, 20, 6, 2)
+			rows = append(rows, append(row, 100+r.Intn(20)))
+			if len(row) == 0 || row[0] >= 100 {
+				rows[len(rows)-1][0] = r.Intn(2)
+			}
+		}
+		shorten(rows)
+		g.Parts = append(g.Parts, rows)
+	}
+	return g
+}
+
 func TestWhatBelongsToGreatGrammars(t *testing.T) {
 	r := rand.New(rand.NewSource(73))
 	belong := 0
 	for range 60 {
-		var g impl.Gram
-		for k := range 20 {
-			var rows [][]int
-			for range 8 {
-				row := checkedRow(r, k, 20, 6, 2)
-				rows = append(rows, append(row, 100+r.Intn(20)))
-				if len(row) == 0 || row[0] >= 100 {
-					rows[len(rows)-1][0] = r.Intn(2)
-				}
-			}
-			rows[7] = []int{r.Intn(2)}
-			g.Parts = append(g.Parts, rows)
-		}
+		g := greatGram(r, func(rows [][]int) { rows[7] = []int{r.Intn(2)} })
 		for range 4 {
 			w := sampleOf(r, g, []int{100})
 			if n := saidOf(t, g, w); n > 0 {
