@@ -704,24 +704,31 @@ func TestDerivesOfManyPartsThatCanBecomeNothing(t *testing.T) {
 	}
 }
 
-// sampleOf is something that a row becomes by alternatives that are taken by chance; long ones are let grow only so far.
+// sampleOf is something that a row becomes by alternatives that are taken by chance.
 func sampleOf(r *rand.Rand, g impl.Gram, row []int) []int {
-	var out []int
+	letters, _ := sampleBy(r, g, row)
+	return letters
+}
+
+// sampleBy tells a sample and its way: the alternatives that were taken, from the left. Long ones are let grow only so far; what is told of such is too long for an input, and has no way.
+func sampleBy(r *rand.Rand, g impl.Gram, row []int) (letters, way []int) {
 	todo := slices.Clone(row)
-	for steps := 0; len(todo) > 0 && steps < 200 && len(out) < 12; steps++ {
+	for steps := 0; len(todo) > 0 && steps < 200 && len(letters) < 12; steps++ {
 		s := todo[0]
 		todo = todo[1:]
 		if s < 100 {
-			out = append(out, s)
+			letters = append(letters, s)
 			continue
 		}
 		alts := g.Parts[s-100]
-		todo = slices.Concat(alts[r.Intn(len(alts))], todo)
+		a := r.Intn(len(alts))
+		way = append(way, a)
+		todo = slices.Concat(alts[a], todo)
 	}
 	if len(todo) > 0 {
-		return slices.Repeat([]int{0}, 11)
+		return slices.Repeat([]int{0}, 11), nil
 	}
-	return out
+	return letters, way
 }
 
 // randomChecked is a grammar that is checked, of a few letters, so that there is something that belongs to it.
@@ -887,23 +894,30 @@ func hasWays(t *testing.T, g impl.Gram, w []int) int {
 	return len(ways)
 }
 
+// smallChecked are grammars of two parts with short rows, all that are checked.
+func smallChecked() []impl.Gram {
+	var out []impl.Gram
+	for _, first := range altsFrom(listsOf([]int{0, 100, 101}, 2)) {
+		for _, second := range altsFrom(listsOf([]int{0, 1, 100, 101}, 2)) {
+			if g := gramOf(first, second); impl.Check(g) == impl.CkOk {
+				out = append(out, g)
+			}
+		}
+	}
+	return out
+}
+
 // Promise 7: a row belongs to a grammar just where it has a way.
 func TestARowBelongsJustWhereItHasAWay(t *testing.T) {
 	met := make([]int, 4)
 	inputs := listsOf([]int{0, 1}, 4)
-	for _, first := range altsFrom(listsOf([]int{0, 100, 101}, 2)) {
-		for _, second := range altsFrom(listsOf([]int{0, 1, 100, 101}, 2)) {
-			g := gramOf(first, second)
-			if impl.Check(g) != impl.CkOk {
-				continue
+	for _, g := range smallChecked() {
+		for _, w := range inputs {
+			n := hasWays(t, g, w)
+			if n < 0 {
+				t.Fatalf("%v of %v has too many ways", w, g)
 			}
-			for _, w := range inputs {
-				n := hasWays(t, g, w)
-				if n < 0 {
-					t.Fatalf("%v of %v has too many ways", w, g)
-				}
-				met[min(n, 3)]++
-			}
+			met[min(n, 3)]++
 		}
 	}
 	if slices.Min(met) < 100 {
