@@ -81,4 +81,4 @@ func SetJoin(a []int, b []int) []int {
 
 func ListCmp(a []int, b []int) int { return slices.Compare(a, b) }
 
-func copyList(s []int) []int { return append([]int(nil), s...) }
+func copyList[T any](s []T) []T { return append([]T(nil), s...) }
