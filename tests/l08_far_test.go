@@ -756,6 +756,15 @@ func TestFarOfManyPartsThatCanBecomeNothing(t *testing.T) {
 	}
 }
 
+// rightAndNear are an input that a row becomes, or the beginning of one, and one that is near to it.
+func rightAndNear(r *rand.Rand, g impl.Gram, row []int) [][]int {
+	w := sampleOf(r, g, row)
+	w = w[:min(len(w), 10)]
+	near := nearTo(w)
+	other := near[r.Intn(len(near))]
+	return [][]int{w, other[:min(len(other), 10)]}
+}
+
 // askSome asks of a grammar by chance: of parts and rests, of what they become or what is near to it, and of places.
 func askSome(a asker, r *rand.Rand, rows int, met map[int]int) {
 	a.t.Helper()
@@ -768,11 +777,7 @@ func askSome(a asker, r *rand.Rand, rows int, met map[int]int) {
 			}
 		}
 		row := append([]int{100 + k}, rest...)
-		w := sampleOf(r, a.g, row)
-		w = w[:min(len(w), 10)]
-		near := nearTo(w)
-		other := near[r.Intn(len(near))]
-		for _, input := range [][]int{w, other[:min(len(other), 10)]} {
+		for _, input := range rightAndNear(r, a.g, row) {
 			for _, place := range []int{0, r.Intn(len(input) + 1)} {
 				a.far(row, input, place)
 				met[len(a.choice(k, rest, input, place).sure)]++
@@ -892,23 +897,29 @@ func sureSeen(t *testing.T, g impl.Gram, k int, rest, w []int, at int) int {
 	return len(sure)
 }
 
-// Promise 8: where some alternative becomes what is left, the one that is chosen does.
-func TestTheOneThatIsChosenBecomesWhatIsLeft(t *testing.T) {
-	met := make([]int, 3)
+// ofSmallChecked asks of each small grammar with each short input, and with parts, rests and places by turns.
+func ofSmallChecked(ask func(g impl.Gram, k int, rest, w []int, at int)) {
 	turn := 0
 	inputs := listsOf([]int{0, 1}, 3)
 	rests := [][]int{nil, {0}, {100}, {101}, {101, 100}, {1, 101}}
 	for _, g := range smallChecked() {
 		for _, w := range inputs {
 			turn++
-			at := turn / 12 % (len(w) + 1)
-			n := sureSeen(t, g, turn/6%2, rests[turn%6], w, at)
-			if n < 0 {
-				t.Fatalf("%v of %v becomes too much", w, g)
-			}
-			met[n]++
+			ask(g, turn/6%2, rests[turn%6], w, turn/12%(len(w)+1))
 		}
 	}
+}
+
+// Promise 8: where some alternative becomes what is left, the one that is chosen does.
+func TestTheOneThatIsChosenBecomesWhatIsLeft(t *testing.T) {
+	met := make([]int, 3)
+	ofSmallChecked(func(g impl.Gram, k int, rest, w []int, at int) {
+		n := sureSeen(t, g, k, rest, w, at)
+		if n < 0 {
+			t.Fatalf("%v of %v becomes too much", w, g)
+		}
+		met[n]++
+	})
 	if slices.Min(met) < 100 {
 		t.Error("too few that are sure", met)
 	}

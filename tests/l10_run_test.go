@@ -923,11 +923,7 @@ func TestRunStepOfRandomRuns(t *testing.T) {
 func askRuns(t *testing.T, r *rand.Rand, g impl.Gram, met map[string]int, ends []int) {
 	t.Helper()
 	s := stepperOf(g)
-	w := sampleOf(r, g, []int{100})
-	w = w[:min(len(w), 10)]
-	near := nearTo(w)
-	other := near[r.Intn(len(near))]
-	for _, input := range [][]int{w, other[:min(len(other), 10)], {r.Intn(3), r.Intn(3), r.Intn(3)}} {
+	for _, input := range append(rightAndNear(r, g, []int{100}), []int{r.Intn(3), r.Intn(3), r.Intn(3)}) {
 		s.asRun(t, input, met)
 		ends[holds(t, g, input)]++
 		inPortions(t, r, g, input)
